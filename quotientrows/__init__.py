@@ -1,0 +1,1 @@
+"""Fractions as rows of quotients; the functions stand in quotientrows.fractions."""

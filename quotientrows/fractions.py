@@ -1,9 +1,12 @@
-"""Rows of quotients: how a fraction is made into one."""
+"""Rows of quotients: how a fraction is made into one and read from one."""
 
 # 2^62, written out because a file's top holds plain values alone.
 LARGEST = 4611686018427387904
 
+MOST_QUOTIENTS = 96
+
 REFUSED = -22
+BEYOND = -75
 
 
 def of(p, q):
@@ -28,3 +31,39 @@ def quotients(p, q):
         upper = lower
         lower = left
     return row
+
+
+def value(t):
+    """Give back 0, then p and q of the row's value in lowest terms, or the refusal alone."""
+    if not is_row(t):
+        return [REFUSED]
+    fraction = fraction_of(t)
+    if abs(fraction[0]) > LARGEST or fraction[1] > LARGEST:
+        return [BEYOND]
+    return [0] + fraction
+
+
+def is_row(t):
+    """Tell whether t is a row of quotients."""
+    if len(t) < 1 or len(t) > MOST_QUOTIENTS:
+        return False
+    if abs(t[0]) > LARGEST:
+        return False
+    for quotient in t[1:]:
+        if quotient < 1 or quotient > LARGEST:
+            return False
+    return len(t) == 1 or t[-1] > 1
+
+
+def fraction_of(row):
+    """Give back p and q of the value of a row of quotients, however great they are."""
+    upper = row[-1]
+    lower = 1
+    # A step takes upper / lower to quotient + lower / upper. A divisor of both new
+    # numbers divides both old ones, so the terms stay the lowest; and the new lower
+    # number is above 0, as each quotient behind the first is.
+    for quotient in reversed(row[:-1]):
+        behind = upper
+        upper = quotient * upper + lower
+        lower = behind
+    return [upper, lower]

@@ -1,44 +1,12 @@
 """Point 1 of the document: the row of quotients of p / q."""
 
-import contextlib
-import inspect
-import io
-import sys
 import unittest
 from fractions import Fraction
 
 from quotientrows.fractions import of
-
-TOP = 2 ** 62
-LEAST_NUMBER = -9223372036854775808
-GREATEST_NUMBER = 9223372036854775807
-
-
-def value_of(row):
-    value = Fraction(row[-1])
-    for quotient in reversed(row[:-1]):
-        value = quotient + 1 / value
-    return value
-
-
-def neighbours():
-    """The pairs of neighbours in 1, 1, 2, 3, 5, 8, ... that are at most 2^62."""
-    pairs = []
-    lesser, greater = 1, 1
-    while greater <= TOP:
-        pairs.append((lesser, greater))
-        lesser, greater = greater, lesser + greater
-    return pairs
-
-
-def spread_numbers(count):
-    """Numbers from 0 to 2^64 - 1, the same ones on every run."""
-    numbers = []
-    state = 1
-    for _ in range(count):
-        state = (state * 6364136223846793005 + 1442695040888963407) % 2 ** 64
-        numbers.append(state)
-    return numbers
+from tests.samples import (
+    GREATEST_NUMBER, LEAST_NUMBER, TOP, called_with_little_depth, neighbours, printed_by, spread_numbers, value_of,
+)
 
 
 class OfCase(unittest.TestCase):
@@ -169,12 +137,7 @@ class MostQuotients(OfCase):
 
     def test_long_rows_are_gone_through_by_loops(self):
         lesser, greater = neighbours()[-1]
-        limit = sys.getrecursionlimit()
-        sys.setrecursionlimit(len(inspect.stack()) + 30)
-        try:
-            answer = of(lesser, greater)
-        finally:
-            sys.setrecursionlimit(limit)
+        answer = called_with_little_depth(of, lesser, greater)
         self.assertEqual(answer[0], 89)
 
 
@@ -215,11 +178,8 @@ class EachCallByItself(unittest.TestCase):
         self.assertEqual(forwards, backwards[::-1])
 
     def test_nothing_is_printed(self):
-        printed = io.StringIO()
-        with contextlib.redirect_stdout(printed), contextlib.redirect_stderr(printed):
-            of(415, 93)
-            of(1, 0)
-        self.assertEqual(printed.getvalue(), "")
+        self.assertEqual(printed_by(of, 415, 93), "")
+        self.assertEqual(printed_by(of, 1, 0), "")
 
 
 if __name__ == "__main__":

@@ -34,6 +34,10 @@ class Interface(unittest.TestCase):
         self.assertEqual(list(inspect.signature(fractions.of).parameters), ["p", "q"])
         self.assertEqual(fractions.of(p=-1, q=2), [2, -1, 2])
 
+    def test_value_takes_t(self):
+        self.assertEqual(list(inspect.signature(fractions.value).parameters), ["t"])
+        self.assertEqual(fractions.value(t=[-1, 2]), [0, -1, 2])
+
 
 class Language(unittest.TestCase):
     def test_only_plain_python_files(self):

@@ -1,4 +1,4 @@
-"""Rows of quotients: how a fraction is made into one and read from one."""
+"""Rows of quotients: how a fraction is made into one and read from one, and how two are compared."""
 
 # 2^62, written out because a file's top holds plain values alone.
 LARGEST = 4611686018427387904
@@ -67,3 +67,30 @@ def fraction_of(row):
         upper = quotient * upper + lower
         lower = behind
     return [upper, lower]
+
+
+def less(t, u):
+    """Give back 1 if the value of row t is less, 2 if that of u is, 0 if they're the same, or the refusal."""
+    if not is_row(t) or not is_row(u):
+        return [REFUSED]
+    return [order_of(t, u)]
+
+
+def order_of(t, u):
+    """Give back 1, 2 or 0, as less does, for two rows of quotients."""
+    place = alike(t, u)
+    if place == len(t) and place == len(u):
+        return 0
+    # A row that ends goes on as if with what is above all, so the lesser quotient is the other's.
+    lesser_in_t = place == len(u) or place < len(t) and t[place] < u[place]
+    # What stands at an odd place divides, so there the lesser quotient makes the greater value.
+    at_even_place = place % 2 == 0
+    return 1 if lesser_in_t == at_even_place else 2
+
+
+def alike(t, u):
+    """Give back how many quotients two rows begin with alike."""
+    place = 0
+    while place < len(t) and place < len(u) and t[place] == u[place]:
+        place += 1
+    return place

@@ -3,6 +3,7 @@
 import contextlib
 import inspect
 import io
+import itertools
 import sys
 from fractions import Fraction
 
@@ -36,6 +37,57 @@ def spread_numbers(count):
         state = (state * 6364136223846793005 + 1442695040888963407) % 2 ** 64
         numbers.append(state)
     return numbers
+
+
+def small_rows(firsts, greatest, longest):
+    """Each row that begins with one of the firsts, with at most so many quotients, none above the greatest."""
+    rows = []
+    for length in range(longest):
+        for behind in itertools.product(range(1, greatest + 1), repeat=length):
+            if length == 0 or behind[-1] > 1:
+                rows.extend([first, *behind] for first in firsts)
+    return rows
+
+
+def row_with_end(first, behind):
+    """A row of these quotients, with a 2 in the place of a 1 at the end."""
+    return [first, *behind[:-1], max(behind[-1], 2)] if behind else [first]
+
+
+def great_row(numbers):
+    """A row of 1 to 96 quotients, short or long and small or great as the numbers tell."""
+    longest = (2, 9, 96)[numbers[0] // 2 ** 40 % 3]
+    greatest = 2 ** (1 + numbers[0] // 2 ** 20 % 62)
+    first = numbers[1] // 4 % (2 * greatest + 1) - greatest
+    length = numbers[2] // 2 ** 30 % longest
+    return row_with_end(first, [1 + number // 4 % greatest for number in numbers[3:3 + length]])
+
+
+def great_pairs(count):
+    """Pairs of rows, of which the second one begins like the first one up to any place."""
+    pairs = []
+    numbers = spread_numbers(200 * count)
+    for start in range(0, len(numbers), 200):
+        t = great_row(numbers[start:start + 100])
+        u = great_row(numbers[start + 100:start + 200])
+        place = numbers[start] // 2 ** 10 % (len(t) + 1)
+        if place > 0:
+            # Behind the first place a quotient is 1 or more.
+            u = (t[:place] + [max(abs(u[0]), 1)] + u[1:])[:96]
+        pairs.append((t, row_with_end(u[0], u[1:])))
+    return pairs
+
+
+# Each breaks one rule of what a row of quotients is, or several.
+NO_ROWS = (
+    [], [2] * 97, [0] + [1] * 96 + [2], [TOP] * 98, [2] * 99, [2] * 100,
+    [3, 0], [3, 0, 2], [3, 2, 0], [3, -1], [3, -2, 2], [3, 2, -2], [3, -TOP, 2], [3, 2, LEAST_NUMBER],
+    [1] * 50 + [0] + [1] * 44 + [2], [1] * 95 + [0], [1] * 95 + [-2],
+    [0, 1], [3, 1], [-1, 1], [3, 2, 1], [1, 1, 1], [2] * 95 + [1],
+    [TOP + 1], [-TOP - 1], [GREATEST_NUMBER], [LEAST_NUMBER], [TOP + 1, 2], [-TOP - 1, 2], [LEAST_NUMBER, 2, 3],
+    [3, TOP + 1, 2], [3, GREATEST_NUMBER, 2], [3, 2, TOP + 1], [3, GREATEST_NUMBER], [2] * 95 + [TOP + 1],
+    [LEAST_NUMBER, GREATEST_NUMBER], [GREATEST_NUMBER] * 100,
+)
 
 
 def called_with_little_depth(function, *arguments):

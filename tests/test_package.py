@@ -38,6 +38,10 @@ class Interface(unittest.TestCase):
         self.assertEqual(list(inspect.signature(fractions.value).parameters), ["t"])
         self.assertEqual(fractions.value(t=[-1, 2]), [0, -1, 2])
 
+    def test_less_takes_t_and_u(self):
+        self.assertEqual(list(inspect.signature(fractions.less).parameters), ["t", "u"])
+        self.assertEqual(fractions.less(t=[-1, 2], u=[0]), [1])
+
 
 class Language(unittest.TestCase):
     def test_only_plain_python_files(self):

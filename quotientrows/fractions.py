@@ -1,4 +1,4 @@
-"""Rows of quotients: how a fraction is made into one and read from one, and how two are compared."""
+"""Rows of quotients: made of fractions, read, compared, and the simplest fraction between two."""
 
 # 2^62, written out because a file's top holds plain values alone.
 LARGEST = 4611686018427387904
@@ -6,6 +6,7 @@ LARGEST = 4611686018427387904
 MOST_QUOTIENTS = 96
 
 REFUSED = -22
+TURNED_ROUND = -33
 BEYOND = -75
 
 
@@ -94,3 +95,36 @@ def alike(t, u):
     while place < len(t) and place < len(u) and t[place] == u[place]:
         place += 1
     return place
+
+
+def simplest(t, u):
+    """Give back how many quotients the simplest fraction from t's value to u's has, then these, or the refusal."""
+    if not is_row(t) or not is_row(u):
+        return [REFUSED]
+    if order_of(t, u) == 2:
+        return [TURNED_ROUND]
+    row = simplest_row(t, u)
+    return [len(row)] + row
+
+
+def simplest_row(t, u):
+    """Give back the row of the simplest fraction from the value of row t to that of u, which is no less."""
+    place = alike(t, u)
+    row = t[:place]
+    # A row that is the other's beginning is an end itself, and whatever else lies between goes on behind it.
+    if place < len(t) and place < len(u):
+        row.append(quotient_between(t, u, place))
+    return row
+
+
+def quotient_between(t, u, place):
+    """Give back the last quotient of the simplest fraction between two rows that first differ at this place."""
+    lesser = u if u[place] < t[place] else t
+    least = lesser[place]
+    # With more behind it, the lesser quotient by itself would lie outside, but the next one doesn't,
+    # as the other row has that one or more. It is 2 or more behind the first place: a 1 never ends a row.
+    if len(lesser) > place + 1:
+        least += 1
+    most = max(t[place], u[place])
+    # Of several, the one that is least in size is the simplest: 0 itself, or the one next to it.
+    return max(least, min(0, most))

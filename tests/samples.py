@@ -117,3 +117,61 @@ class Unchanging(list):
 
     append = clear = extend = insert = pop = remove = reverse = sort = refuse_change
     __setitem__ = __delitem__ = __iadd__ = __imul__ = refuse_change
+
+
+class PairCalls:
+    """What holds of every function of two rows; to be joined to a TestCase that has call, the function, and PAIRS."""
+
+    def test_what_is_handed_in_stays(self):
+        for t, u in self.PAIRS:
+            first, second = list(t), list(u)
+            answer = self.call(first, second)
+            self.assertIsNot(answer, first)
+            self.assertIsNot(answer, second)
+            answer.append(5)
+            answer[0] = 77
+            self.assertEqual((first, second), (t, u))
+
+    def test_what_is_handed_in_stays_all_the_while(self):
+        for t, u in self.PAIRS:
+            answer = self.call(Unchanging(t), Unchanging(u))
+            self.assertEqual(answer, self.call(t, u))
+            self.assertIs(type(answer), list)
+
+    def test_a_changed_answer_changes_no_later_one(self):
+        for t, u in self.PAIRS:
+            answer = self.call(t, u)
+            expected = list(answer)
+            answer.append(5)
+            answer[0] = 77
+            self.assertEqual(self.call(t, u), expected)
+
+    def test_order_of_calls_does_not_matter(self):
+        forwards = [self.call(t, u) for t, u in self.PAIRS]
+        backwards = [self.call(t, u) for t, u in reversed(self.PAIRS)]
+        self.assertEqual(forwards, backwards[::-1])
+
+    def test_nothing_is_printed(self):
+        for t, u in self.PAIRS:
+            self.assertEqual(printed_by(self.call, t, u), "")
+
+
+class PairRefusals:
+    """That a function of two rows refuses what is no row; to be joined to a TestCase that has call, the function."""
+
+    ROWS = ([0], [3], [-1, 2], [4, 2, 6, 7], [TOP], [-TOP], [3, 2], [TOP] * 96, [1] * 95 + [2])
+
+    def check_refused(self, t, u):
+        self.assertEqual(self.call(t, u), [-22], (t, u))
+        self.assertEqual(self.call(u, t), [-22], (u, t))
+
+    def test_fault_in_the_first_or_the_second(self):
+        for faulty in NO_ROWS:
+            for row in self.ROWS:
+                self.check_refused(faulty, row)
+
+    def test_fault_in_both(self):
+        for faulty in NO_ROWS:
+            self.check_refused(faulty, faulty)
+            for other in NO_ROWS:
+                self.check_refused(faulty, other)

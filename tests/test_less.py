@@ -4,8 +4,8 @@ import unittest
 
 from quotientrows.fractions import less, of
 from tests.samples import (
-    GREATEST_NUMBER, LEAST_NUMBER, NO_ROWS, TOP, Unchanging, called_with_little_depth, great_pairs, neighbours,
-    printed_by, small_rows, value_of,
+    GREATEST_NUMBER, LEAST_NUMBER, TOP, PairCalls, PairRefusals, called_with_little_depth, great_pairs, neighbours,
+    small_rows, value_of,
 )
 
 FIRSTS = (-TOP, -3, -2, -1, 0, 1, 2, TOP)
@@ -26,10 +26,6 @@ class LessCase(unittest.TestCase):
         expected = 1 if first < second else 2 if second < first else 0
         self.check(t, u, expected)
         return expected
-
-    def check_refused(self, t, u):
-        self.assertEqual(less(t, u), [-22], (t, u))
-        self.assertEqual(less(u, t), [-22], (u, t))
 
 
 class OrdinaryRows(LessCase):
@@ -181,19 +177,8 @@ class Edges(LessCase):
         self.assertEqual(called_with_little_depth(less, row + [2], row + [3]), [2])
 
 
-class NoRows(LessCase):
-    ROWS = ([0], [3], [-1, 2], [4, 2, 6, 7], [TOP], [-TOP], [3, 2], [TOP] * 96, [1] * 95 + [2])
-
-    def test_fault_in_the_first_or_the_second(self):
-        for faulty in NO_ROWS:
-            for row in self.ROWS:
-                self.check_refused(faulty, row)
-
-    def test_fault_in_both(self):
-        for faulty in NO_ROWS:
-            self.check_refused(faulty, faulty)
-            for other in NO_ROWS:
-                self.check_refused(faulty, other)
+class NoRows(PairRefusals, unittest.TestCase):
+    call = staticmethod(less)
 
     def test_fault_behind_the_first_place_where_they_differ(self):
         for number in (0, -1, -TOP, LEAST_NUMBER, TOP + 1, GREATEST_NUMBER):
@@ -212,40 +197,12 @@ class NoRows(LessCase):
         self.check_refused([3, 1], [3, 1, 2])
 
 
-class EachCallByItself(LessCase):
+class EachCallByItself(PairCalls, unittest.TestCase):
+    call = staticmethod(less)
     PAIRS = (
         ([4, 2, 6, 7], [4, 2, 6, 8]), ([4, 2, 6, 7], [4, 2, 6, 7]), ([-1, 2], [0]), ([3], [3, 2]), ([], [1]),
         ([1], [1, 1]), ([3, 0, 2], [3]), ([TOP] * 96, [TOP] * 95), ([2] * 97, [2] * 96), ([5], [LEAST_NUMBER]),
     )
-
-    def test_what_is_handed_in_stays(self):
-        for t, u in self.PAIRS:
-            first, second = list(t), list(u)
-            answer = less(first, second)
-            self.assertEqual((first, second), (t, u))
-            self.assertIsNot(answer, first)
-            self.assertIsNot(answer, second)
-
-    def test_what_is_handed_in_stays_all_the_while(self):
-        for t, u in self.PAIRS:
-            self.assertEqual(less(Unchanging(t), Unchanging(u)), less(t, u))
-
-    def test_a_changed_answer_changes_no_later_one(self):
-        for t, u in self.PAIRS:
-            answer = less(t, u)
-            expected = list(answer)
-            answer.append(5)
-            answer[0] = 77
-            self.assertEqual(less(t, u), expected)
-
-    def test_order_of_calls_does_not_matter(self):
-        forwards = [less(t, u) for t, u in self.PAIRS]
-        backwards = [less(t, u) for t, u in reversed(self.PAIRS)]
-        self.assertEqual(forwards, backwards[::-1])
-
-    def test_nothing_is_printed(self):
-        for t, u in self.PAIRS:
-            self.assertEqual(printed_by(less, t, u), "")
 
 
 if __name__ == "__main__":

@@ -42,6 +42,10 @@ class Interface(unittest.TestCase):
         self.assertEqual(list(inspect.signature(fractions.less).parameters), ["t", "u"])
         self.assertEqual(fractions.less(t=[-1, 2], u=[0]), [1])
 
+    def test_simplest_takes_t_and_u(self):
+        self.assertEqual(list(inspect.signature(fractions.simplest).parameters), ["t", "u"])
+        self.assertEqual(fractions.simplest(t=[-1, 3], u=[-1, 1, 2]), [2, -1, 2])
+
 
 class Language(unittest.TestCase):
     def test_only_plain_python_files(self):
